@@ -1,0 +1,1 @@
+"""Oathledger: one ledger kept by machines of which some lie."""
