@@ -4,7 +4,15 @@ import importlib
 import inspect
 import unittest
 
+from oathledger.accounts import ACCOUNT_LIMIT, HOLD_LIMIT, SUPPLY_LIMIT, Accounts
+from oathledger.blocks import GENESIS
+from oathledger.chain import Chain
+from oathledger.disk import SECTOR_SIZE
+from oathledger.executor import RESULT_LIMIT, State
 from oathledger.groups import Group
+from oathledger.sectors import PIECE_SIZE
+from oathledger.sessions import Sessions
+from oathledger.store import ENTRY_LIMIT, Store
 
 FUNCTIONS = {
     "groups": ["epoch_of(time)", "first_tick(epoch)"],
@@ -18,6 +26,11 @@ FUNCTIONS = {
     "sectors": ["format_head(generation, area)", "format_piece(generation, place, left, payload)", "parse_sector(text)",
                 "cut(text)"],
     "memory": ["reduce(records)"],
+    "ballot": ["numbers_along(numbers, path)", "may_vote(block, epoch, chain, ballot, known, numbers)"],
+    "tokens": ["statements(text)", "is_name(word)", "is_key(word)", "is_value(word)", "is_amount(word)"],
+    "language": ["parse_command(text)", "command_text(parsed)"],
+    "executor": ["run(state, client, parsed)", "execute(state, command)", "execute_block(state, block)"],
+    "snapshot": ["state_text(state)", "state_of(text)"],
 }
 CLASSES = {
     "errors": {
@@ -33,6 +46,32 @@ CLASSES = {
                             "append(self, record)", "sync(self)", "compact(self, records)"]},
     "memory": {"Memory": ["__init__(self, records)", "finals(self)", "votes(self)", "readies(self)", "vouches(self)",
                           "checkpoint(self)", "last_vote(self)", "floor(self)", "fits(self, record)", "add(self, record)"]},
+    "logbook": {"Logbook": ["__init__(self, disk)", "note(self, record)", "flush(self)", "shorten(self)", "memory(self)",
+                            "records(self)"]},
+    "notary": {"Notary": ["__init__(self, group)", "add_vote(self, sender, block)", "add_ready(self, sender, block)",
+                          "votes(self, block)", "readies(self, block)", "supported(self, epoch)", "notarized(self, epoch)",
+                          "epochs(self)", "forget(self, epoch)"]},
+    "chain": {"Chain": ["__init__(self, root)", "insert(self, block)", "connected(self, epoch)", "tip(self)", "path(self, epoch)",
+                        "final(self)", "settle(self, block)"]},
+    "ballot": {"Ballot": ["__init__(self, blocks)", "last(self)", "floor(self)", "restore(self, epoch, floor)",
+                          "record(self, block)", "blocks(self)"]},
+    "agreement": {"Agreement": ["__init__(self, group, me, root, numbers, votes, readies, last=0, floor=0)",
+                                "receive(self, sender, kind, block)", "advance(self, epoch, known)",
+                                "propose(self, epoch, candidates)", "adopt(self, block)", "final_blocks(self)", "last_final(self)",
+                                "sent(self, kind)", "tip(self)"]},
+    "accounts": {"Accounts": ["__init__(self)", "create(self, client, name)", "close(self, client, name)",
+                              "issue(self, client, name, amount)", "burn(self, client, name, amount)",
+                              "pay(self, client, source, target, amount)", "hold(self, client, source, target, amount, key)",
+                              "settle(self, client, key)", "release(self, client, key)", "balance(self, name)", "owner(self, name)",
+                              "supply(self)", "rows(self)", "held(self)", "clone(self)"]},
+    "store": {"Store": ["__init__(self)", "put(self, client, key, value)", "drop(self, client, key)", "swap(self, key, old, new)",
+                        "read(self, key)", "matching(self, prefix)", "rows(self)", "clone(self)"]},
+    "sessions": {"Sessions": ["__init__(self)", "last(self, client)", "answer(self, client)",
+                              "remember(self, client, number, answer)", "rows(self)", "numbers(self)", "clone(self)"]},
+    "executor": {"State": ["__init__(self)", "clone(self)"]},
+    "vouching": {"Vouching": ["__init__(self, group, me)", "ask(self, command, last)", "restore(self, command)",
+                              "add(self, sender, command, last)", "executed(self, client, number)", "support(self, command)",
+                              "own(self)", "known(self)", "backed(self)"]},
 }
 
 
@@ -65,6 +104,15 @@ class InterfaceTest(unittest.TestCase):
         found = vars(Group(2))
         self.assertEqual({name: found[name] for name in ("faults", "machines", "quorum", "blocking")},
                          {"faults": 2, "machines": 7, "quorum": 5, "blocking": 3})
+
+    def test_attributes_of_a_chain_and_a_state(self):
+        self.assertIn("root", vars(Chain(GENESIS)))
+        found = vars(State())
+        self.assertEqual([type(found[name]) for name in ("accounts", "store", "sessions")], [Accounts, Store, Sessions])
+
+    def test_constants(self):
+        self.assertEqual((SECTOR_SIZE, PIECE_SIZE, GENESIS), (96, 40, (0, 0, 0, ())))
+        self.assertEqual((SUPPLY_LIMIT, ACCOUNT_LIMIT, HOLD_LIMIT, ENTRY_LIMIT, RESULT_LIMIT), (10 ** 15, 100, 100, 200, 60))
 
 
 if __name__ == "__main__":
