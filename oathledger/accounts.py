@@ -133,7 +133,6 @@ class Accounts:
     def _check_payment(self, client, source, target, amount):
         """Refuse if the client cannot move the amount from the source to the target."""
         # A target that is missing counts before an owner that does not fit.
-        self._check(source)
         self._check(target)
         self._check_owner(client, source)
         self._check_funds(source, amount)

@@ -126,10 +126,15 @@ class CreationTest(unittest.TestCase):
         agreement.adopt((14, 11, 7, ((-3, 9, "z"),)))
         self.assertEqual((numbers, votes, readies), ({-3: 1}, [P11], [P13, P12]))
         self.assertEqual((known, candidates), ([(-3, 2, "a")], [(-2, 1, "b"), (-3, 4, "c")]))
+
+    def test_arguments_are_copied(self):
+        numbers, votes, readies = {-3: 1}, [P11], [P12]
+        agreement = Agreement(GROUP, 3, ROOT, numbers, votes, readies)
         votes.append(P12)
-        readies.clear()
+        readies.append(P13)
         numbers[-3] = 90
-        self.assertEqual(agreement.sent("vote"), [])
+        self.assertEqual((agreement.sent("vote"), agreement.sent("ready")), ([P11], [P12]))
+        self.assertEqual(agreement.propose(15, [(-3, 2, "a")]), (15, 10, 6, ((-3, 2, "a"),)))
 
 
 class ReceiveTest(unittest.TestCase):
@@ -249,6 +254,10 @@ class ReceiveTest(unittest.TestCase):
             self.assertIsNone(agreement.receive(sender, "propose", far))
         self.assertEqual(agreement.advance(10 ** 12 + 1, []), [])
         self.assertIsNone(agreement.propose(10 ** 12 + 1, []))
+        last = (10 ** 12, 10, 6, ())
+        agreement = fresh(ROOT, me=0)
+        self.assertEqual(agreement.propose(10 ** 12, []), last)
+        self.assertEqual(agreement.advance(10 ** 12, []), [("vote", last)])
 
 
 class AdvanceTest(unittest.TestCase):
@@ -419,7 +428,7 @@ class AdvanceTest(unittest.TestCase):
         notarize(agreement, [P11, P12])
         agreement.receive(3, "propose", (16, 12, 8, ()))
         agreement.advance(16, []).append(1)
-        before = told(agreement)
+        before = copy.deepcopy(told(agreement))
         for found in (agreement.final_blocks(), agreement.sent("vote"), agreement.sent("ready")):
             self.assertEqual(len(found), 1)
             found.append(1)

@@ -329,6 +329,15 @@ class SettleTest(unittest.TestCase):
             # A block that still waited would keep out another one of its epoch.
             self.assertEqual(chain.insert(other), [other] if gone[0] > 15 else [])
 
+    def test_dropped_blocks_do_not_wait_for_another_root(self):
+        # The second root has a lower epoch than the first one, which drops what waited for it.
+        for gone, later in (((14, 13, 9, ()), (13, 12, 8, ())), ((15, 14, 9, ()), (14, 12, 8, ()))):
+            chain = chain_of(ROOT, [gone])
+            chain.settle((15, 13, 7, ()))
+            chain.settle(later)
+            self.assertEqual(told(chain)[1], {later[0]: later})
+            self.assertEqual(chain.insert(gone), [gone])
+
     def test_waiting_blocks_that_stay(self):
         chain = chain_of(ROOT, [(18, 17, 9, ())])
         chain.settle((15, 13, 7, ()))

@@ -80,6 +80,11 @@ class CountTest(unittest.TestCase):
             self.assertEqual([other(each) for each in (A, B, C, LATER, block(6), block(5))], [0] * 6)
             self.assertEqual(notary.epochs(), [6, 7, 8])
 
+    def test_least_epoch(self):
+        notary, returned = given(0, [("vote", 0, block(1)), ("ready", 0, block(1))])
+        self.assertEqual(returned, [True, True])
+        self.assertEqual((notary.epochs(), notary.notarized(1)), ([1], block(1)))
+
     def test_what_counts_is_told_by_true_and_false(self):
         notary = Notary(Group(0))
         self.assertIs(notary.add_vote(0, A), True)
