@@ -29,6 +29,14 @@ def is_decimal(word):
     return word.isascii() and word.isdigit() and (word == "0" or word[0] != "0")
 
 
+def integer_of(word, most):
+    """Return the integer that the string writes in at most that many decimal digits, or None."""
+    digits = word[1:] if word.startswith("-") else word
+    if len(digits) > most or not is_decimal(digits) or word == "-0":
+        return None
+    return int(word)
+
+
 def encode(value):
     """Return the canonical text of a plain value."""
     return text_of(value, MOST_DEPTH, MOST_LENGTH)

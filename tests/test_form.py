@@ -80,9 +80,12 @@ class FormTest(unittest.TestCase):
     def test_no_local_name_is_that_of_an_import_or_class(self):
         for name, tree in TREES.items():
             outer = {alias.name for node in tree.body if isinstance(node, ast.ImportFrom) for alias in node.names}
-            outer |= {node.name for node in tree.body if isinstance(node, ast.ClassDef)}
+            classes = [node for node in tree.body if isinstance(node, ast.ClassDef)]
+            outer |= {node.name for node in classes}
+            # A method may have such a name.
+            methods = {node.name for each in classes for node in each.body if isinstance(node, ast.FunctionDef)}
             for file, bound in bound_names():
-                if file == name and bound not in {node.name for node in tree.body if isinstance(node, ast.ClassDef)}:
+                if file == name and bound not in {node.name for node in classes} | methods:
                     self.assertNotIn(bound, outer, name)
 
     def test_builtins(self):

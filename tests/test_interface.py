@@ -5,14 +5,20 @@ import inspect
 import unittest
 
 from oathledger.accounts import ACCOUNT_LIMIT, HOLD_LIMIT, SUPPLY_LIMIT, Accounts
+from oathledger.acts import MOST_TICKS
 from oathledger.blocks import GENESIS
 from oathledger.chain import Chain
 from oathledger.disk import SECTOR_SIZE
+from oathledger.errors import BadSchedule
 from oathledger.executor import RESULT_LIMIT, State
 from oathledger.groups import Group
+from oathledger.replica import CHECKPOINT
+from oathledger.report import event_line, event_of
+from oathledger.schedule import act_line, parse_schedule
 from oathledger.sectors import PIECE_SIZE
 from oathledger.sessions import Sessions
 from oathledger.store import ENTRY_LIMIT, Store
+from oathledger.world import MOST_SECTORS
 
 FUNCTIONS = {
     "groups": ["epoch_of(time)", "first_tick(epoch)"],
@@ -31,6 +37,17 @@ FUNCTIONS = {
     "language": ["parse_command(text)", "command_text(parsed)"],
     "executor": ["run(state, client, parsed)", "execute(state, command)", "execute_block(state, block)"],
     "snapshot": ["state_text(state)", "state_of(text)"],
+    "outbox": ["to_others(group, me, letter)", "repeats(group, me, vouches, votes, readies, height)",
+               "gives(receiver, blocks, height)", "answers(rows)"],
+    "acts": ["check_act(act)", "survivors(keep, count)"],
+    "schedule": ["parse_schedule(text)", "act_line(act)", "run_schedule(text)"],
+    "history": ["is_event(value)"],
+    "judge": ["ledger_commands(ledger)", "agreement_fault(ledgers)", "chain_fault(ledger)", "validity_fault(ledger, calls)",
+              "answer_fault(ledger, accepted)", "order_fault(ledger, events)", "lost_fault(events, ledger)",
+              "judge(history, ledgers)"],
+    "linear": ["precedes(history, first, second)", "is_linear(history, order)", "find_linear(history)"],
+    "report": ["event_line(event)", "event_of(line)", "history_text(history)", "history_of(text)", "ledger_lines(ledger)",
+               "summary(history, ledgers)"],
 }
 CLASSES = {
     "errors": {
@@ -72,6 +89,20 @@ CLASSES = {
     "vouching": {"Vouching": ["__init__(self, group, me)", "ask(self, command, last)", "restore(self, command)",
                               "add(self, sender, command, last)", "executed(self, client, number)", "support(self, command)",
                               "own(self)", "known(self)", "backed(self)"]},
+    "catchup": {"Catchup": ["__init__(self, group)", "add(self, sender, block, height)", "due(self, last)", "forget(self, height)"]},
+    "replica": {"Replica": ["__init__(self, blocks, checkpoint)", "blocks(self)", "height(self)", "last_block(self)",
+                            "execute(self, block)", "last_number(self, client)", "answer(self, client)", "numbers(self)",
+                            "state_text(self)"]},
+    "machine": {"Machine": ["__init__(self, group, me, disk)", "tick(self, time)", "receive(self, sender, letter)",
+                            "ledger(self)", "epoch(self)", "tip(self)", "state_text(self)"]},
+    "client": {"Client": ["__init__(self, group, name)", "submit(self, text)", "tick(self)", "receive(self, sender, letter)",
+                          "pending(self)", "accepted(self)", "waiting(self)"]},
+    "net": {"Net": ["__init__(self)", "send(self, sender, receiver, letter)", "take(self, position)", "double(self, position)",
+                    "move(self, position)", "packets(self)", "count(self)"]},
+    "world": {"World": ["__init__(self, faults, liars, clients, sectors)", "act(self, step)", "time(self)", "ledger(self, machine)",
+                        "honest(self)", "is_up(self, machine)", "history(self)", "packets(self)", "client(self, name)"]},
+    "history": {"History": ["__init__(self)", "add(self, event)", "events(self)", "calls(self)", "accepted(self)",
+                            "open_calls(self)", "ledger(self, machine)", "machines(self)"]},
 }
 
 
@@ -113,6 +144,16 @@ class InterfaceTest(unittest.TestCase):
     def test_constants(self):
         self.assertEqual((SECTOR_SIZE, PIECE_SIZE, GENESIS), (96, 40, (0, 0, 0, ())))
         self.assertEqual((SUPPLY_LIMIT, ACCOUNT_LIMIT, HOLD_LIMIT, ENTRY_LIMIT, RESULT_LIMIT), (10 ** 15, 100, 100, 200, 60))
+        self.assertEqual((CHECKPOINT, MOST_TICKS, MOST_SECTORS), (8, 1000, 10000))
+
+    def test_examples_of_schedules_and_events(self):
+        self.assertEqual(parse_schedule("world 1 2 300 3\nsubmit -1 open ann\ncalm 4"),
+                         (1, 1, 2, 300, [3], [(2, ("submit", -1, "open ann")), (3, ("calm", 4))]))
+        self.assertEqual(act_line(("say", 3, 0, ("claim", 0))), "say 3 0 t2:s5:claimi0;")
+        self.assertEqual(event_line(("call", 3, -2, 1, "open ann")), "3 call -2 1 open ann")
+        self.assertEqual(event_of("4 accept -2 1 ok"), ("accept", 4, -2, 1, "ok"))
+        with self.assertRaises(BadSchedule):
+            event_of("4 accept -2 1")
 
 
 if __name__ == "__main__":

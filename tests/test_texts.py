@@ -4,7 +4,7 @@ import itertools
 import unittest
 
 from oathledger.errors import BadText
-from oathledger.texts import decode, encode, is_integer, is_printable, read_value, text_length
+from oathledger.texts import decode, encode, integer_of, is_integer, is_printable, read_value, text_length
 from tests.values import PERCENT, STRANGE, Odd, nest
 
 NOT_PLAIN = [[], [1], 0.0, 1.5, b"", b"a", bytearray(b"a"), {}, {1}, frozenset(), object(), Odd(), Odd, len, 1j]
@@ -344,6 +344,20 @@ class ReadValueTest(unittest.TestCase):
     def test_depth(self):
         self.assertEqual(read_value("n" + "t1:" * 11 + "t0:n", 1), (nest(12), 37))
         self.assert_bad("n" + "t1:" * 12 + "t0:n", 1)
+
+
+class IntegerOfTest(unittest.TestCase):
+    def test_words_of_integers(self):
+        for value in (0, 1, 9, 10, 123, 999):
+            self.assertEqual(integer_of(str(value), 3), value)
+            self.assertEqual(integer_of(str(-value), 3), -value)
+        self.assertEqual(integer_of("1" * 60, 60), int("1" * 60))
+
+    def test_words_that_are_none(self):
+        words = ["", "-", "-0", "00", "01", "-01", "--1", "1-", "+1", "1 ", " 1", "1.0", "1_0", "a", "1000", "-1000", "0001", "\u0661", "\xb2",
+                 "9" * 5000, "-" + "9" * 5000]
+        for word in words:
+            self.assertIsNone(integer_of(word, 3), word)
 
 
 if __name__ == "__main__":
