@@ -6,8 +6,6 @@ from oathledger.limits import MOST_ANSWER, MOST_FAULTS, MOST_NUMBER
 from oathledger.requests import is_client, is_command, is_number
 from oathledger.texts import is_integer, is_short
 
-MOST_MACHINE = 3 * MOST_FAULTS
-
 
 def holds_call(parts):
     """Tell whether these are the parts of a call, behind its time."""
@@ -34,7 +32,7 @@ def holds_crash(parts):
 
 def is_machine(value):
     """Tell whether the value is a machine of the greatest group."""
-    return is_integer(value, 0, MOST_MACHINE)
+    return is_integer(value, 0, 3 * MOST_FAULTS)
 
 
 FORMS = {"call": holds_call, "accept": holds_accept, "final": holds_final, "crash": holds_crash}

@@ -41,9 +41,9 @@ def parting(ledger, other):
 def chain_fault(ledger):
     """Return the first block that does not follow the one before it."""
     before = GENESIS
-    for index, block in enumerate(ledger):
+    for block in ledger:
         if not follows(block, before):
-            return "chain", index + 1
+            return "chain", block[2]
         before = block
     return None
 

@@ -91,12 +91,14 @@ class ChainTest(unittest.TestCase):
 
     def test_the_first_one(self):
         self.assertEqual(chain_fault([A, block(3, 2, 2), block(9, 8, 3), D]), ("chain", 2))
-        self.assertEqual(chain_fault([block(9, 8, 2), C]), ("chain", 1))
-        self.assertEqual(chain_fault([B]), ("chain", 1))
 
-    def test_a_wrong_height(self):
-        self.assertEqual(chain_fault([A, B, block(4, 2, 2)]), ("chain", 3))
-        self.assertEqual(chain_fault([A, A]), ("chain", 2))
+    def test_lists_that_are_no_ledgers(self):
+        # The height is that of the block, wherever it stands in the list.
+        self.assertEqual(chain_fault([block(9, 8, 2), C]), ("chain", 2))
+        self.assertEqual(chain_fault([B]), ("chain", 2))
+        self.assertEqual(chain_fault([A, C, D]), ("chain", 3))
+        self.assertEqual(chain_fault([A, B, block(4, 2, 2)]), ("chain", 2))
+        self.assertEqual(chain_fault([A, A]), ("chain", 1))
 
 
 class ValidityTest(unittest.TestCase):
@@ -294,7 +296,8 @@ class JudgeTest(unittest.TestCase):
         history = good_history()
         self.assertEqual(judge(history, [LEDGER, [A, block(3, 1, 2)]]), [("agreement", 0, 1, 2)])
         history = History()
-        self.assertEqual(judge(history, [[B]]), [("chain", 1)])
+        self.assertEqual(judge(history, [[A, B, block(5, 4, 3)]])[0], ("chain", 3))
+        self.assertEqual(judge(history, [[B]]), [("chain", 2)])
         self.assertEqual(judge(history, [[A]]), [("unknown", 0)])
         history.add(call(ANN))
         history.add(accept(-1, 1, "no"))

@@ -53,6 +53,18 @@ class PrecedesTest(unittest.TestCase):
         self.assertIs(precedes(history, PUT1, PUT1), False)
 
 
+    def test_events_of_machines_do_not_matter(self):
+        history = History()
+        for event in (("final", 0, 1, block(1)), ("call", 0) + PUT1, ("crash", 0, 1), ("accept", 0, -1, 1, "ok"),
+                      ("final", 0, 1, block(1)), ("call", 0) + PUT2, ("crash", 0, 2)):
+            history.add(event)
+        self.assertIs(precedes(history, PUT1, PUT2), True)
+        self.assertIs(precedes(history, PUT2, PUT1), False)
+        self.assertEqual(find_linear(history), [PUT1])
+        self.assertIs(is_linear(history, [PUT1, PUT2]), True)
+        self.assertIs(is_linear(history, [PUT2, PUT1]), False)
+
+
 class IsLinearTest(unittest.TestCase):
     def test_the_empty_history(self):
         self.assertIs(is_linear(History(), []), True)

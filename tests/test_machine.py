@@ -2,6 +2,7 @@
 
 import copy
 import unittest
+import unittest.mock
 
 from oathledger.blocks import GENESIS
 from oathledger.disk import Disk
@@ -10,6 +11,7 @@ from oathledger.executor import State, execute
 from oathledger.groups import Group
 from oathledger.logbook import Logbook
 from oathledger.machine import Machine
+from oathledger.replica import Replica
 from oathledger.snapshot import state_text
 from tests.disks import LoggingDisk, disk_with, log_of
 from tests.machines import give, notarize, others, records_on, start
@@ -722,6 +724,33 @@ class CheckpointTest(unittest.TestCase):
         expected = [("ready", blocks[0])] + [("final", each) for each in blocks]
         expected.insert(9, ("state", 8, state_text(executed(blocks[:8]))))
         self.assertEqual(records_on(disk)[9:], expected)
+
+    def test_a_state_without_a_text(self):
+        # No commands lead to such a state, so its replica is told to have none.
+        disk, machine = start(time=100)
+        blocks = self.chain(9)
+        with unittest.mock.patch.object(Replica, "state_text", side_effect=BadText()) as asked:
+            for each in blocks:
+                give(machine, each)
+            self.assertEqual(asked.call_count, 1)
+        self.assertEqual(machine.ledger(), blocks)
+        self.assertEqual([record for record in records_on(disk) if record[0] == "state"], [])
+        self.assertEqual(disk.pending(), [])
+        self.assertEqual(Machine(Group(1), 3, disk).state_text(), state_text(executed(blocks)))
+
+    def test_a_checkpoint_that_the_logbook_refuses(self):
+        note = Logbook.note
+        for error in (BadText, JournalFull):
+            def refuse(book, record):
+                if record[0] == "state":
+                    raise error()
+                note(book, record)
+
+            disk, machine = start(time=100)
+            with unittest.mock.patch.object(Logbook, "note", refuse):
+                letters = [give(machine, each) for each in self.chain(9)]
+            self.assertEqual((machine.ledger(), letters[7][-1][0]), (self.chain(9), -1))
+            self.assertEqual([record[0] for record in records_on(disk)], ["ready", "final"] * 9)
 
     def run_of_one(self, size):
         """What the machine of a group of one has behind height 9, on a disk of this size."""

@@ -177,7 +177,7 @@ class SummaryTest(unittest.TestCase):
         self.assertEqual(found, ["calls 4", "accepted 4", "open 0", "fault t3:s7:missingi-1;i1;", "fault t3:s4:losti0;i1;"])
         found = summary(History(), [[B], [block(9)]])
         self.assertEqual(found, ["calls 0", "accepted 0", "open 0", "ledger 0 1", "ledger 1 1",
-                                 "fault " + encode(("agreement", 0, 1, 1)), "fault t2:s5:chaini1;"])
+                                 "fault " + encode(("agreement", 0, 1, 1)), "fault t2:s5:chaini2;"])
 
 
 if __name__ == "__main__":

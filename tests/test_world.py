@@ -494,6 +494,7 @@ class ReasonsTest(unittest.TestCase):
         self.assert_refused(world, ("submit", -1, "a"), "client")
         self.assert_refused(world, ("say", 0, 0, ("claim", 0)), "machine")
         self.assert_refused(world, ("deliver", 0), "position")
+        self.assert_refused(World(1, [2], 0, 300), ("say", 2, -1, ("answer", 1, "a")), "letter")
 
     def test_items_of_another_kind_in_each_place(self):
         world = self.world()

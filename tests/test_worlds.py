@@ -213,7 +213,7 @@ class JudgedTest(unittest.TestCase):
         history, longest = play.world.history(), max(play.ledgers(), key=len)
         self.assertGreater(len(longest), 2)
         self.assertEqual(judge(history, [longest[:-1]])[-1][0], "lost")
-        self.assertEqual(judge(history, [longest[1:]])[0], ("chain", 1))
+        self.assertEqual(judge(history, [longest[1:]])[0], ("chain", 2))
 
 
 if __name__ == "__main__":
