@@ -97,7 +97,7 @@ def lost_fault(events, ledger):
     """Return the first block that a machine had as final and that the ledger does not have."""
     for event in events:
         if event[0] == "final":
-            _, _, machine, block = event
+            machine, block = event[2:]
             if block not in ledger[block[2] - 1:block[2]]:
                 return "lost", machine, block[2]
     return None
